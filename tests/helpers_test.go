@@ -99,3 +99,73 @@ func checkMap(t *testing.T, what string, got impl.Map, want impl.Map) {
 		t.Errorf("%s = %v, want %v", what, got, want)
 	}
 }
+
+func checkMaps(t *testing.T, what string, got []impl.Map, want []impl.Map) {
+	t.Helper()
+	if !slices.Equal(got, want) {
+		t.Errorf("%s = %v, want %v", what, got, want)
+	}
+}
+
+// listOf makes a list of the maps with these texts.
+func listOf(texts ...string) []impl.Map {
+	var list []impl.Map
+	for _, text := range texts {
+		list = append(list, digits(text))
+	}
+	return list
+}
+
+// smallLists are all lists of one or two maps of up to 3 points, and some of three.
+func smallLists() [][]impl.Map {
+	var lists [][]impl.Map
+	for n := int64(1); n <= 3; n++ {
+		for i, f := range allMaps(n) {
+			lists = append(lists, []impl.Map{f})
+			for k, g := range allMaps(n) {
+				lists = append(lists, []impl.Map{f, g})
+				h := allMaps(n)[(i*5+k*7)%len(allMaps(n))]
+				if (i+k)%3 == 0 {
+					lists = append(lists, []impl.Map{f, g, h})
+				}
+			}
+		}
+	}
+	return lists
+}
+
+// greaterLists are lists of maps of 4 or 5 points, with equal maps and maps that others make in
+// some of them, and monoids of up to MaxElements elements.
+func greaterLists() [][]impl.Map {
+	return [][]impl.Map{
+		listOf("0123"),
+		listOf("01234", "01234"),
+		listOf("1230", "1023"),
+		listOf("1230", "1023", "0012"),
+		listOf("1230", "1000", "0123", "1000", "3012", "2222"),
+		listOf("0012", "1233", "0113"),
+		listOf("12340"),
+		listOf("12340", "10234"),
+		listOf("10234", "12340", "12340", "20143"),
+		listOf("12043", "00000", "33344"),
+		listOf("00123", "12344"),
+		listOf("00000", "11111", "22222", "33333", "44444"),
+		listOf("00234", "01134", "01224", "01233"),
+		listOf("00034", "03204", "01244"),
+		listOfMaxElements(),
+	}
+}
+
+// listOfMaxElements makes a monoid of just MaxElements elements.
+func listOfMaxElements() []impl.Map {
+	return listOf("30234", "13024", "31313")
+}
+
+// largeLists make monoids of more than MaxElements elements, the first one just one more.
+func largeLists() [][]impl.Map {
+	return [][]impl.Map{
+		listOf("04243", "04024", "32034", "01440"),
+		listOf("12340", "10234", "00234"),
+		listOf("00234", "12340", "01234", "44444", "01234", "10234"),
+	}
+}
