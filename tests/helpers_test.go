@@ -169,3 +169,66 @@ func largeLists() [][]impl.Map {
 		listOf("00234", "12340", "01234", "44444", "01234", "10234"),
 	}
 }
+
+func allLists() [][]impl.Map {
+	return append(smallLists(), greaterLists()...)
+}
+
+// listsWith are lists in which something is not a map. Some are also too long, or of maps with
+// different points, which is checked later.
+func listsWith(bad impl.Map) [][]impl.Map {
+	return [][]impl.Map{
+		{bad},
+		{digits("00"), bad},
+		{bad, digits("00"), digits("120")},
+		{digits("0"), digits("0"), digits("0"), digits("0"), digits("0"), digits("0"), digits("0"), bad},
+		append(largeLists()[0], bad),
+	}
+}
+
+// listsNotAsTold are lists of maps that are too short or too long, or of maps with different
+// points. Some would make too large a monoid, which is checked later.
+func listsNotAsTold() [][]impl.Map {
+	return [][]impl.Map{
+		nil,
+		{},
+		listOf("0", "00"),
+		listOf("10", "00", "01", "11", "10", "000"),
+		listOf("0", "0", "0", "0", "0", "0", "0"),
+		listOf("012", "012", "012", "012", "012", "012", "012", "012", "012"),
+		append(largeLists()[1], digits("0")),
+		slices.Concat(largeLists()[1], largeLists()[0]),
+	}
+}
+
+// ofMaps, ofNumbers, ofNumber, ofMap and ofBool tell of a call its code and whether its result is
+// the zero value.
+func ofMaps(maps []impl.Map, code int64) (int64, bool) { return code, len(maps) == 0 }
+
+func ofNumbers(numbers []int64, code int64) (int64, bool) { return code, len(numbers) == 0 }
+
+func ofNumber(number int64, code int64) (int64, bool) { return code, number == 0 }
+
+func ofMap(f impl.Map, code int64) (int64, bool) { return code, f == impl.Map{} }
+
+func ofBool(yes bool, code int64) (int64, bool) { return code, !yes }
+
+func checkFails(t *testing.T, what string, call func() (int64, bool), want int64) {
+	t.Helper()
+	code, zero := call()
+	if code != want || !zero {
+		t.Errorf("%s: code %d, zero value %v, want code %d", what, code, zero, want)
+	}
+}
+
+// checkOwn writes to the result of a call, and calls again.
+func checkOwn[T comparable](t *testing.T, what string, call func() ([]T, int64)) {
+	t.Helper()
+	first, _ := call()
+	want := slices.Clone(first)
+	clear(first)
+	again, _ := call()
+	if !slices.Equal(again, want) {
+		t.Errorf("%s = %v the second time, and %v the first time", what, again, want)
+	}
+}

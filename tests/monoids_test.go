@@ -63,10 +63,6 @@ func elementsWhere(elements []impl.Map, holds func(f impl.Map, g impl.Map) bool)
 	return those
 }
 
-func allLists() [][]impl.Map {
-	return append(smallLists(), greaterLists()...)
-}
-
 func TestPromise2ElementsAreClosedUnderProducts(t *testing.T) {
 	for _, list := range allLists() {
 		elements, code := impl.ElementsOf(list)
@@ -437,16 +433,9 @@ func TestGeneratingPartsMakeTheSameMonoid(t *testing.T) {
 // callsOfMonoids calls each function of chapter 2 with a list, and tells the code and whether the
 // result is the zero value.
 func callsOfMonoids(list []impl.Map, f impl.Map, word []int64) map[string]func() (int64, bool) {
-	ofMaps := func(maps []impl.Map, code int64) (int64, bool) { return code, len(maps) == 0 }
-	ofNumbers := func(numbers []int64, code int64) (int64, bool) { return code, len(numbers) == 0 }
-	ofMap := func(f impl.Map, code int64) (int64, bool) { return code, f == impl.Map{} }
-	ofBool := func(yes bool, code int64) (int64, bool) { return code, !yes }
 	return map[string]func() (int64, bool){
-		"ElementsOf": func() (int64, bool) { return ofMaps(impl.ElementsOf(list)) },
-		"SizeOf": func() (int64, bool) {
-			size, code := impl.SizeOf(list)
-			return code, size == 0
-		},
+		"ElementsOf":      func() (int64, bool) { return ofMaps(impl.ElementsOf(list)) },
+		"SizeOf":          func() (int64, bool) { return ofNumber(impl.SizeOf(list)) },
 		"WordFor":         func() (int64, bool) { return ofNumbers(impl.WordFor(list, f)) },
 		"MapOfWord":       func() (int64, bool) { return ofMap(impl.MapOfWord(list, word)) },
 		"IsElement":       func() (int64, bool) { return ofBool(impl.IsElement(list, f)) },
@@ -463,25 +452,11 @@ func callsOfMonoids(list []impl.Map, f impl.Map, word []int64) map[string]func()
 	}
 }
 
-func checkFails(t *testing.T, what string, call func() (int64, bool), want int64) {
-	t.Helper()
-	code, zero := call()
-	if code != want || !zero {
-		t.Errorf("%s: code %d, zero value %v, want code %d", what, code, zero, want)
-	}
-}
-
 // TestListsWithNoMapsAreInvalid gives lists that are also too long or of maps with different
 // points, words and maps that are not as told, all of which is checked later.
 func TestListsWithNoMapsAreInvalid(t *testing.T) {
 	for _, bad := range noMaps() {
-		for _, list := range [][]impl.Map{
-			{bad},
-			{digits("00"), bad},
-			{bad, digits("00"), digits("120")},
-			{digits("0"), digits("0"), digits("0"), digits("0"), digits("0"), digits("0"), digits("0"), bad},
-			append(largeLists()[0], bad),
-		} {
+		for _, list := range listsWith(bad) {
 			for name, call := range callsOfMonoids(list, digits("10"), []int64{-1}) {
 				checkFails(t, fmt.Sprint(name, " ", list), call, impl.ErrInvalid)
 			}
@@ -495,16 +470,7 @@ func TestListsWithNoMapsAreInvalid(t *testing.T) {
 }
 
 func TestListsThatAreNotAsTold(t *testing.T) {
-	for _, list := range [][]impl.Map{
-		nil,
-		{},
-		listOf("0", "00"),
-		listOf("10", "00", "01", "11", "10", "000"),
-		listOf("0", "0", "0", "0", "0", "0", "0"),
-		listOf("012", "012", "012", "012", "012", "012", "012", "012", "012"),
-		append(largeLists()[1], digits("0")),
-		slices.Concat(largeLists()[1], largeLists()[0]),
-	} {
+	for _, list := range listsNotAsTold() {
 		for name, call := range callsOfMonoids(list, digits("10"), nil) {
 			checkFails(t, fmt.Sprint(name, " ", list), call, impl.ErrRange)
 		}
@@ -580,11 +546,7 @@ func TestMonoidsShareNoMemory(t *testing.T) {
 		"CentreOf":      func() ([]impl.Map, int64) { return impl.CentreOf(list) },
 	}
 	for name, call := range ofMaps {
-		first, _ := call()
-		want := slices.Clone(first)
-		clear(first)
-		again, _ := call()
-		checkMaps(t, name, again, want)
+		checkOwn(t, name, call)
 		checkMaps(t, "the list behind "+name, store, listOf("1230", "1000", "3333", "2222"))
 	}
 	ofNumbers := map[string]func() ([]int64, int64){
@@ -594,11 +556,7 @@ func TestMonoidsShareNoMemory(t *testing.T) {
 		"LeastGenerating": func() ([]int64, int64) { return impl.LeastGenerating(list) },
 	}
 	for name, call := range ofNumbers {
-		first, _ := call()
-		want := slices.Clone(first)
-		clear(first)
-		again, _ := call()
-		checkList(t, name, again, want)
+		checkOwn(t, name, call)
 		checkMaps(t, "the list behind "+name, store, listOf("1230", "1000", "3333", "2222"))
 	}
 	impl.MapOfWord(list, words[:3])
