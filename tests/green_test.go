@@ -419,61 +419,39 @@ func TestDepthOfAndRanksOfClasses(t *testing.T) {
 	}
 }
 
-// callsOfGreen calls each function of chapter 3 with a list, two maps and a kind, and tells the
-// code and whether the result is the zero value.
-func callsOfGreen(list []impl.Map, f impl.Map, g impl.Map, kind int64) map[string]func() (int64, bool) {
-	return map[string]func() (int64, bool){
-		"ClassNumbers":   func() (int64, bool) { return ofNumbers(impl.ClassNumbers(list, kind)) },
-		"CountClasses":   func() (int64, bool) { return ofNumbers(impl.CountClasses(list)) },
-		"GridOf":         func() (int64, bool) { return ofNumbers(impl.GridOf(list, f)) },
-		"IsRegular":      func() (int64, bool) { return ofBool(impl.IsRegular(list, f)) },
-		"GroupWith":      func() (int64, bool) { return ofMaps(impl.GroupWith(list, f)) },
-		"AreAlike":       func() (int64, bool) { return ofBool(impl.AreAlike(list, f, g, kind)) },
-		"IsUnder":        func() (int64, bool) { return ofBool(impl.IsUnder(list, f, g)) },
-		"DepthOf":        func() (int64, bool) { return ofNumber(impl.DepthOf(list)) },
-		"RanksOfClasses": func() (int64, bool) { return ofNumbers(impl.RanksOfClasses(list)) },
+// greenOf calls each function of chapter 3, with a kind.
+func greenOf(kind int64) chapter {
+	ofSecond := []string{"AreAlike", "IsUnder"}
+	return chapter{
+		ofFirst:  append([]string{"GridOf", "IsRegular", "GroupWith"}, ofSecond...),
+		ofSecond: ofSecond,
+		calls: func(list []impl.Map, f impl.Map, g impl.Map) map[string]func() (int64, bool) {
+			return map[string]func() (int64, bool){
+				"ClassNumbers":   func() (int64, bool) { return ofNumbers(impl.ClassNumbers(list, kind)) },
+				"CountClasses":   func() (int64, bool) { return ofNumbers(impl.CountClasses(list)) },
+				"GridOf":         func() (int64, bool) { return ofNumbers(impl.GridOf(list, f)) },
+				"IsRegular":      func() (int64, bool) { return ofBool(impl.IsRegular(list, f)) },
+				"GroupWith":      func() (int64, bool) { return ofMaps(impl.GroupWith(list, f)) },
+				"AreAlike":       func() (int64, bool) { return ofBool(impl.AreAlike(list, f, g, kind)) },
+				"IsUnder":        func() (int64, bool) { return ofBool(impl.IsUnder(list, f, g)) },
+				"DepthOf":        func() (int64, bool) { return ofNumber(impl.DepthOf(list)) },
+				"RanksOfClasses": func() (int64, bool) { return ofNumbers(impl.RanksOfClasses(list)) },
+			}
+		},
 	}
 }
 
 // TestGreenRejectsWhatIsNotAMap gives kinds that are not as told too, which is checked later.
 func TestGreenRejectsWhatIsNotAMap(t *testing.T) {
-	for _, bad := range noMaps() {
-		for _, list := range listsWith(bad) {
-			for name, call := range callsOfGreen(list, digits("10"), digits("120"), 4) {
-				checkFails(t, fmt.Sprint(name, " ", list), call, impl.ErrInvalid)
-			}
-		}
-		for _, list := range [][]impl.Map{nil, listOf("10"), listOf("10", "120"), largeLists()[1]} {
-			calls := callsOfGreen(list, bad, digits("10"), -1)
-			for _, name := range []string{"GridOf", "IsRegular", "GroupWith", "AreAlike", "IsUnder"} {
-				checkFails(t, fmt.Sprint(name, " ", list, bad), calls[name], impl.ErrInvalid)
-			}
-			calls = callsOfGreen(list, digits("120"), bad, -1)
-			for _, name := range []string{"AreAlike", "IsUnder"} {
-				checkFails(t, fmt.Sprint(name, " ", list, " second map ", bad), calls[name], impl.ErrInvalid)
-			}
-		}
+	for _, kind := range []int64{0, 4, -1} {
+		greenOf(kind).checkNoMaps(t)
 	}
 }
 
-func TestGreenRejectsListsThatAreNotAsTold(t *testing.T) {
-	for _, list := range listsNotAsTold() {
-		for name, call := range callsOfGreen(list, digits("10"), digits("10"), 0) {
-			checkFails(t, fmt.Sprint(name, " ", list), call, impl.ErrRange)
-		}
-	}
-}
-
-func TestGreenRejectsMapsWithAnotherNumberOfPoints(t *testing.T) {
-	for _, list := range [][]impl.Map{listOf("10"), listOf("01234"), largeLists()[0]} {
-		calls := callsOfGreen(list, digits("120"), list[0], 0)
-		for _, name := range []string{"GridOf", "IsRegular", "GroupWith", "AreAlike", "IsUnder"} {
-			checkFails(t, fmt.Sprint(name, " ", list), calls[name], impl.ErrRange)
-		}
-		calls = callsOfGreen(list, list[0], digits("0"), 0)
-		for _, name := range []string{"AreAlike", "IsUnder"} {
-			checkFails(t, fmt.Sprint(name, " ", list, " second map"), calls[name], impl.ErrRange)
-		}
+func TestGreenRejectsListsAndMapsThatAreNotAsTold(t *testing.T) {
+	for _, kind := range allKinds() {
+		greenOf(kind).checkListsNotAsTold(t)
+		greenOf(kind).checkOtherPoints(t)
 	}
 }
 
@@ -482,68 +460,31 @@ func TestGreenRejectsMapsWithAnotherNumberOfPoints(t *testing.T) {
 func TestKindsThatAreNotAsTold(t *testing.T) {
 	for _, kind := range []int64{-1, 4, 5, 1 << 32, 1<<63 - 1, -1 << 63} {
 		for _, list := range [][]impl.Map{listOf("01234"), listOfMaxElements(), largeLists()[0]} {
-			calls := callsOfGreen(list, digits("00000"), digits("00001"), kind)
+			calls := greenOf(kind).calls(list, digits("00000"), digits("00001"))
 			checkFails(t, fmt.Sprint("ClassNumbers ", list, kind), calls["ClassNumbers"], impl.ErrRange)
 			checkFails(t, fmt.Sprint("AreAlike ", list, kind), calls["AreAlike"], impl.ErrRange)
 		}
 	}
 }
 
-// TestGreenRejectsLargerMonoids also gives maps that are no elements, which is checked later.
 func TestGreenRejectsLargerMonoids(t *testing.T) {
-	for _, list := range largeLists() {
-		for _, f := range []impl.Map{list[0], identityByHand(5), digits("00012")} {
-			for _, kind := range allKinds() {
-				for name, call := range callsOfGreen(list, f, f, kind) {
-					checkFails(t, fmt.Sprint(name, " ", list), call, impl.ErrLimit)
-				}
-			}
-		}
+	for _, kind := range allKinds() {
+		greenOf(kind).checkLargeMonoids(t)
 	}
 }
 
 func TestGreenRejectsMapsThatAreNoElements(t *testing.T) {
-	for _, c := range []struct {
-		list []impl.Map
-		no   string
-	}{
-		{listOf("10"), "00"},
-		{listOf("120", "000"), "001"},
-		{listOf("01234"), "10234"},
-		{listOfMaxElements(), "00012"},
-	} {
-		for _, kind := range allKinds() {
-			calls := callsOfGreen(c.list, digits(c.no), c.list[0], kind)
-			for _, name := range []string{"GridOf", "IsRegular", "GroupWith", "AreAlike", "IsUnder"} {
-				checkFails(t, fmt.Sprint(name, " ", c.list, c.no), calls[name], impl.ErrNotFound)
-			}
-			calls = callsOfGreen(c.list, c.list[0], digits(c.no), kind)
-			for _, name := range []string{"AreAlike", "IsUnder"} {
-				checkFails(t, fmt.Sprint(name, " ", c.list, " second map ", c.no), calls[name], impl.ErrNotFound)
-			}
-			calls = callsOfGreen(c.list, digits(c.no), digits(c.no), kind)
-			checkFails(t, "AreAlike of no element with itself", calls["AreAlike"], impl.ErrNotFound)
-			checkFails(t, "IsUnder of no element with itself", calls["IsUnder"], impl.ErrNotFound)
-		}
+	for _, kind := range allKinds() {
+		greenOf(kind).checkNoElements(t)
 	}
 }
 
 func TestGreenAcceptsSixMapsAndMaxElements(t *testing.T) {
-	for _, list := range [][]impl.Map{listOf("10", "10", "10", "10", "10", "10"), listOfMaxElements()} {
-		size, _ := impl.SizeOf(list)
-		identity := identityByHand(list[0].Points)
-		for _, kind := range allKinds() {
-			for name, call := range callsOfGreen(list, identity, identity, kind) {
-				code, zero := call()
-				checkCode(t, name, code, impl.ErrNone)
-				if zero {
-					t.Errorf("%s %v is the zero value", name, list)
-				}
-			}
-			classes, _ := impl.ClassNumbers(list, kind)
-			if int64(len(classes)) != size {
-				t.Errorf("ClassNumbers(%v, %d) = %v", list, kind, classes)
-			}
+	for _, kind := range allKinds() {
+		greenOf(kind).checkAccepted(t, "ClassNumbers", "RanksOfClasses")
+		classes, _ := impl.ClassNumbers(listOfMaxElements(), kind)
+		if len(classes) != impl.MaxElements {
+			t.Errorf("ClassNumbers of %d", len(classes))
 		}
 	}
 }
