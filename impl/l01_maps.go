@@ -102,11 +102,7 @@ func ImageOf(f Map, points []int64) ([]int64, int64) {
 	if !areAscendingPoints(points, f.Points) {
 		return nil, ErrRange
 	}
-	var image pointSet
-	for _, p := range points {
-		image[f.To[p]] = true
-	}
-	return image.ascending(), ErrNone
+	return imageOfSet(f, setOfPoints(points)).ascending(), ErrNone
 }
 
 // KernelOf returns the kernel, and ErrNone.
@@ -288,6 +284,26 @@ func (s pointSet) ascending() []int64 {
 	return points
 }
 
+func (s pointSet) size() int64 {
+	return int64(len(s.ascending()))
+}
+
+func setOfPoints(points []int64) pointSet {
+	var set pointSet
+	for _, p := range points {
+		set[p] = true
+	}
+	return set
+}
+
+func allPoints(n int64) pointSet {
+	var all pointSet
+	for i := range n {
+		all[i] = true
+	}
+	return all
+}
+
 func identity(n int64) Map {
 	f := Map{Points: n}
 	for i := range n {
@@ -356,12 +372,18 @@ func isIdempotent(f Map) bool {
 	return product(f, f) == f
 }
 
-func rank(f Map) int64 {
+func imageOfSet(f Map, set pointSet) pointSet {
 	var image pointSet
-	for _, to := range f.To[:f.Points] {
-		image[to] = true
+	for i, in := range set {
+		if in {
+			image[f.To[i]] = true
+		}
 	}
-	return int64(len(image.ascending()))
+	return image
+}
+
+func rank(f Map) int64 {
+	return imageOfSet(f, allPoints(f.Points)).size()
 }
 
 func isPermutation(f Map) bool {
