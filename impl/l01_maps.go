@@ -110,17 +110,7 @@ func KernelOf(f Map) ([]int64, int64) {
 	if !IsMap(f) {
 		return nil, ErrInvalid
 	}
-	var kernel []int64
-	numbers := map[int64]int64{}
-	for _, image := range f.To[:f.Points] {
-		number, known := numbers[image]
-		if !known {
-			number = int64(len(numbers))
-			numbers[image] = number
-		}
-		kernel = append(kernel, number)
-	}
-	return kernel, ErrNone
+	return numbersByFirst(f.To[:f.Points]), ErrNone
 }
 
 // FixedPoints returns the fixed points, ascending, and ErrNone.
@@ -272,6 +262,21 @@ func areAscendingPoints(points []int64, n int64) bool {
 		previous = p
 	}
 	return true
+}
+
+// numbersByFirst numbers different values from 0 on, in the order in which each one comes first.
+func numbersByFirst[T comparable](values []T) []int64 {
+	var numbers []int64
+	known := map[T]int64{}
+	for _, value := range values {
+		number, met := known[value]
+		if !met {
+			number = int64(len(known))
+			known[value] = number
+		}
+		numbers = append(numbers, number)
+	}
+	return numbers
 }
 
 func (s pointSet) ascending() []int64 {
