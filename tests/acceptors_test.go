@@ -247,16 +247,6 @@ func checkAcceptor(t *testing.T, what string, got impl.Acceptor, want impl.Accep
 	}
 }
 
-func checkYes(t *testing.T, what string, want bool) func(yes bool, code int64) {
-	t.Helper()
-	return func(yes bool, code int64) {
-		t.Helper()
-		if yes != want || code != impl.ErrNone {
-			t.Errorf("%s = %v, %d, want %v", what, yes, code, want)
-		}
-	}
-}
-
 // longWords are words of MaxWordLength numbers, and of one less.
 func longWords(maps int64) [][]int64 {
 	var words [][]int64
@@ -305,7 +295,7 @@ func TestPromise7LeastAcceptorsAcceptTheSameWords(t *testing.T) {
 				t.Fatalf("Accepts(%v, %v) = %v, but the least acceptor %v says %v", a, word, yes, least, leastYes)
 			}
 		}
-		checkYes(t, fmt.Sprint("AreEqual ", a, least), true)(impl.AreEqual(a, least))
+		checkValue(t, fmt.Sprint("AreEqual ", a, least), true)(impl.AreEqual(a, least))
 		again, code := impl.LeastAcceptor(least)
 		checkCode(t, fmt.Sprint("LeastAcceptor ", least), code, impl.ErrNone)
 		checkAcceptor(t, fmt.Sprint("LeastAcceptor ", least), again, least)
@@ -395,7 +385,7 @@ func TestEqualAcceptorsHaveTheSameLeastAcceptor(t *testing.T) {
 		for i, a := range all {
 			for k, b := range all {
 				same := sameAcceptors(leasts[i], leasts[k])
-				checkYes(t, fmt.Sprint("AreEqual ", a, b), same)(impl.AreEqual(a, b))
+				checkValue(t, fmt.Sprint("AreEqual ", a, b), same)(impl.AreEqual(a, b))
 				if same {
 					equal++
 				} else {
@@ -431,7 +421,7 @@ func TestAcceptorsByHand(t *testing.T) {
 		counts, code := impl.CountAccepted(a, impl.MaxCounted)
 		checkCode(t, "CountAccepted", code, impl.ErrNone)
 		checkList(t, fmt.Sprint("CountAccepted ", a), counts, countsByHand(a, impl.MaxCounted))
-		checkYes(t, fmt.Sprint("IsFinite ", a), isFiniteByHand(a))(impl.IsFinite(a))
+		checkValue(t, fmt.Sprint("IsFinite ", a), isFiniteByHand(a))(impl.IsFinite(a))
 		wantYes, wantCode := withoutGroupsByHand(want)
 		yes, code := impl.IsWithoutGroups(a)
 		if yes != wantYes || code != wantCode {
@@ -463,7 +453,7 @@ func checkPointsByHand(t *testing.T, a impl.Acceptor, words []wordByHand) {
 func TestAcceptsWordsByHand(t *testing.T) {
 	for _, a := range someAcceptors() {
 		for _, word := range wordsToTry(int64(len(a.Maps)), 4, 0) {
-			checkYes(t, fmt.Sprint("Accepts ", a, word), acceptsByHand(a, word))(impl.Accepts(a, word))
+			checkValue(t, fmt.Sprint("Accepts ", a, word), acceptsByHand(a, word))(impl.Accepts(a, word))
 		}
 	}
 }
@@ -484,7 +474,7 @@ func TestDifferentWordsByHand(t *testing.T) {
 			word, code := impl.FirstDifferent(a, b)
 			checkCode(t, fmt.Sprint("FirstDifferent ", a, b), code, wantCode)
 			checkList(t, fmt.Sprint("FirstDifferent ", a, b), word, want)
-			checkYes(t, fmt.Sprint("AreEqual ", a, b), wantCode == impl.ErrNotFound)(impl.AreEqual(a, b))
+			checkValue(t, fmt.Sprint("AreEqual ", a, b), wantCode == impl.ErrNotFound)(impl.AreEqual(a, b))
 		}
 	}
 }
@@ -504,8 +494,8 @@ func TestKnownAcceptors(t *testing.T) {
 			word, code := impl.FirstAccepted(a)
 			checkCode(t, fmt.Sprint("FirstAccepted ", a), code, k.code)
 			checkList(t, fmt.Sprint("FirstAccepted ", a), word, k.first)
-			checkYes(t, fmt.Sprint("IsFinite ", a), k.finite)(impl.IsFinite(a))
-			checkYes(t, fmt.Sprint("IsWithoutGroups ", a), k.withoutGroups)(impl.IsWithoutGroups(a))
+			checkValue(t, fmt.Sprint("IsFinite ", a), k.finite)(impl.IsFinite(a))
+			checkValue(t, fmt.Sprint("IsWithoutGroups ", a), k.withoutGroups)(impl.IsWithoutGroups(a))
 		}
 	}
 }
@@ -576,7 +566,7 @@ func TestKnownDifferentWords(t *testing.T) {
 			word, code := impl.FirstDifferent(pair[0], pair[1])
 			checkCode(t, fmt.Sprint("FirstDifferent ", pair), code, k.code)
 			checkList(t, fmt.Sprint("FirstDifferent ", pair), word, k.want)
-			checkYes(t, fmt.Sprint("AreEqual ", pair), k.code == impl.ErrNotFound)(impl.AreEqual(pair[0], pair[1]))
+			checkValue(t, fmt.Sprint("AreEqual ", pair), k.code == impl.ErrNotFound)(impl.AreEqual(pair[0], pair[1]))
 		}
 	}
 }
@@ -640,7 +630,7 @@ func TestMonoidsOfLeastAcceptors(t *testing.T) {
 	for _, list := range largeLists() {
 		for _, last := range [][]int64{nil, {0, 1, 2, 3, 4}} {
 			a := impl.Acceptor{Maps: list, First: 1, Last: last}
-			checkYes(t, fmt.Sprint("IsWithoutGroups ", a), true)(impl.IsWithoutGroups(a))
+			checkValue(t, fmt.Sprint("IsWithoutGroups ", a), true)(impl.IsWithoutGroups(a))
 		}
 	}
 }

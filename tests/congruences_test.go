@@ -537,14 +537,8 @@ func checkQuotient(t *testing.T, m pairedByHand, classes []int64) {
 			}
 		}
 	}
-	for a := range table {
-		for b := range table {
-			for c := range table {
-				if table[table[a][b]][c] != table[a][table[b][c]] {
-					t.Fatalf("QuotientTable(%v, %v) = %v, which depends on brackets", m.list, classes, table)
-				}
-			}
-		}
+	if dependsOnBrackets(table) {
+		t.Fatalf("QuotientTable(%v, %v) = %v, which depends on brackets", m.list, classes, table)
 	}
 }
 

@@ -86,6 +86,17 @@ func checkCode(t *testing.T, what string, got int64, want int64) {
 	}
 }
 
+// checkValue takes the result of a call.
+func checkValue[T comparable](t *testing.T, what string, want T) func(got T, code int64) {
+	t.Helper()
+	return func(got T, code int64) {
+		t.Helper()
+		if got != want || code != impl.ErrNone {
+			t.Errorf("%s = %v, %d, want %v", what, got, code, want)
+		}
+	}
+}
+
 func checkList(t *testing.T, what string, got []int64, want []int64) {
 	t.Helper()
 	if !slices.Equal(got, want) {
