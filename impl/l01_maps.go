@@ -143,9 +143,7 @@ func CyclicPoints(f Map) ([]int64, int64) {
 	if !IsMap(f) {
 		return nil, ErrInvalid
 	}
-	// If a power of f keeps a point, so does each power of that power, and the idempotent power of
-	// f is one of them: it keeps just the cyclic points.
-	return fixedPoints(idempotentPower(f)), ErrNone
+	return cyclicPoints(f), ErrNone
 }
 
 // IdempotentPower returns the only idempotent one among the powers of f with a number of at least
@@ -200,11 +198,7 @@ func RenumberMap(f Map, p Map) (Map, int64) {
 	if !isPermutation(p) {
 		return Map{}, ErrState
 	}
-	renumbered := Map{Points: f.Points}
-	for i := range f.Points {
-		renumbered.To[p.To[i]] = p.To[f.To[i]]
-	}
-	return renumbered, ErrNone
+	return renumber(f, p), ErrNone
 }
 
 // CompareMaps returns -1, 0 or 1 if f comes before g, is g, or comes behind it, and ErrNone. (The
@@ -401,6 +395,20 @@ func fixedPoints(f Map) []int64 {
 		fixed[i] = f.To[i] == i
 	}
 	return fixed.ascending()
+}
+
+func cyclicPoints(f Map) []int64 {
+	// If a power of f keeps a point, so does each power of that power, and the idempotent power of
+	// f is one of them: it keeps just the cyclic points.
+	return fixedPoints(idempotentPower(f))
+}
+
+func renumber(f Map, p Map) Map {
+	renumbered := Map{Points: f.Points}
+	for i := range f.Points {
+		renumbered.To[p.To[i]] = p.To[f.To[i]]
+	}
+	return renumbered
 }
 
 func compareMaps(f Map, g Map) int {
